@@ -167,10 +167,13 @@ func writeDigits(text *strings.Builder, n uint64) {
 }
 
 // ReadDecimal returns the integer with a decimal form.
-func ReadDecimal(s string) (int64, bool) {
-	n, err := strconv.ParseInt(s, 10, 32)
+func ReadDecimal(s string) (int64, bool) { return readBetween(s, MinInt, MaxInt) }
+
+// readBetween returns the number from least to most with a decimal form.
+func readBetween(s string, least, most int64) (int64, bool) {
+	n, err := strconv.ParseInt(s, 10, 64)
 	// ParseInt also reads texts that no number has as its decimal form, such as "+1", "-0" and "012".
-	if err != nil || Decimal(n) != s {
+	if err != nil || n < least || n > most || Decimal(n) != s {
 		return 0, false
 	}
 	return n, true
