@@ -561,6 +561,17 @@ func (m *memoryOf) addProgram(p impl.Program) {
 	}
 }
 
+// overlap reports whether two of the slices share memory.
+func (m memoryOf) overlap() bool {
+	slices.SortFunc(m, func(a, b [2]uintptr) int { return slices.Compare(a[:], b[:]) })
+	for i := 1; i < len(m); i++ {
+		if m[i-1][1] > m[i][0] {
+			return true
+		}
+	}
+	return false
+}
+
 // TestParsedResultsShareNoMemory is P1 for the results of parsing: no two slices, of one result or of two, have memory in common.
 func TestParsedResultsShareNoMemory(t *testing.T) {
 	var m memoryOf
@@ -584,11 +595,8 @@ func TestParsedResultsShareNoMemory(t *testing.T) {
 			kept = append(kept, p)
 		}
 	}
-	slices.SortFunc(m, func(a, b [2]uintptr) int { return slices.Compare(a[:], b[:]) })
-	for i := 1; i < len(m); i++ {
-		if m[i-1][1] > m[i][0] {
-			t.Fatalf("two slices share memory in %.300s", fmt.Sprint(kept...))
-		}
+	if m.overlap() {
+		t.Fatalf("two slices share memory in %.300s", fmt.Sprint(kept...))
 	}
 	if len(m) < 300 {
 		t.Errorf("only %d slices", len(m))

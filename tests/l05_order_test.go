@@ -254,10 +254,7 @@ func TestTypesOfBodiesShareNoMemory(t *testing.T) {
 			kept = append(kept, x)
 		}
 	}
-	slices.SortFunc(m, func(a, b [2]uintptr) int { return slices.Compare(a[:], b[:]) })
-	for i := 1; i < len(m); i++ {
-		if m[i-1][1] > m[i][0] {
-			t.Fatalf("two slices share memory in %.300s", fmt.Sprint(kept))
-		}
+	if m.overlap() {
+		t.Fatalf("two slices share memory in %.300s", fmt.Sprint(kept))
 	}
 }
