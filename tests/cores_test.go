@@ -246,6 +246,25 @@ func roomyCore(c impl.Core) impl.Core {
 	return impl.Core{Kind: c.Kind, Value: c.Value, Data: data, Kids: kids}
 }
 
+func roomyBook(b impl.Book) impl.Book {
+	defs := make([]impl.Core, 0, len(b.Defs)+2)
+	for _, c := range b.Defs {
+		defs = append(defs, roomyCore(c))
+	}
+	for i := len(defs); i < cap(defs); i++ {
+		defs[:cap(defs)][i] = coreOf("[7:8]")
+	}
+	return impl.Book{Defs: defs}
+}
+
+func dumpBook(b impl.Book) string {
+	told := fmt.Sprint(len(b.Defs))
+	for _, c := range b.Defs[:cap(b.Defs)] {
+		told += dumpCore(c)
+	}
+	return told
+}
+
 // spoilCore overwrites all memory of a result.
 func spoilCore(c impl.Core) {
 	for _, kid := range c.Kids {

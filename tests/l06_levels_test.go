@@ -306,20 +306,6 @@ func TestSameBook(t *testing.T) {
 
 // TestBooksArePure is P1 for the functions of books.
 func TestBooksArePure(t *testing.T) {
-	roomyBook := func(b impl.Book) impl.Book {
-		defs := make([]impl.Core, 0, len(b.Defs)+2)
-		for _, c := range b.Defs {
-			defs = append(defs, roomyCore(c))
-		}
-		return impl.Book{Defs: defs}
-	}
-	dumpBook := func(b impl.Book) string {
-		told := fmt.Sprint(len(b.Defs))
-		for _, c := range b.Defs[:cap(b.Defs)] {
-			told += dumpCore(c)
-		}
-		return told
-	}
 	list := []impl.Book{{}, bookOf("?"), bookOf("@1"), bookOf("@1", "[0 1:^#0]"), bookOf("#0"), {Defs: numbers(24)}, {Defs: numbers(25)}, {Defs: brokenCores()}, {Defs: randomCores(94, 20)}}
 	for i := range list {
 		list[i] = roomyBook(list[i])
